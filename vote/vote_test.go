@@ -598,6 +598,24 @@ func lostStays(t *testing.T, was, is sight) {
 	}
 }
 
+// mayBeDone: what is won may be done to the roster, and isn't lost; how many are won, and how many lost.
+func mayBeDone(t *testing.T, b *Box) (wins, losses int) {
+	t.Helper()
+	for p := -2; p < 35; p++ {
+		c, won := b.Won(p)
+		if won {
+			wins++
+			if e := b.Roster().Check(c); e != api.OK || b.Lost(p) {
+				t.Fatalf("Won of %d: %+v: %d", p, c, e)
+			}
+		}
+		if b.Lost(p) {
+			losses++
+		}
+	}
+	return wins, losses
+}
+
 // P19.1, P19.2: calls by chance against the slow model; what is won may be done, what is lost stays so.
 func TestByChance(t *testing.T) {
 	by := rand.New(rand.NewSource(22))
@@ -643,17 +661,8 @@ func TestByChance(t *testing.T) {
 				lostStays(t, was, is)
 			}
 			was = is
-			for p := -2; p < 35; p++ {
-				if c, ok := b.Won(p); ok {
-					wins++
-					if e := b.Roster().Check(c); e != api.OK || b.Lost(p) {
-						t.Fatalf("Won of %d: %+v: %d", p, c, e)
-					}
-				}
-				if b.Lost(p) {
-					losses++
-				}
-			}
+			w, l := mayBeDone(t, b)
+			wins, losses = wins+w, losses+l
 		}
 	}
 	for _, e := range []api.Errno{api.OK, api.ErrArg, api.ErrPlayer, api.ErrThere, api.ErrNone} {
